@@ -1,0 +1,92 @@
+// Package reader goes through bytes from their front, for the layers that take back what was put.
+package reader
+
+import (
+	"bytes"
+
+	"cloakroom/api"
+	"cloakroom/leb"
+)
+
+// Reader is embedded in what a layer takes apart. The first error that it meets stays, and nothing is left to read then: who reads may go on without asking, gets noughts, and asks at the End.
+type Reader struct {
+	rest []byte
+	e    api.Errno
+}
+
+// New answers a Reader at b's front.
+func New(b []byte) Reader {
+	return Reader{rest: b}
+}
+
+// Fail tells that e was met here.
+func (r *Reader) Fail(e api.Errno) {
+	if r.e == api.OK {
+		*r = Reader{e: e}
+	}
+}
+
+// End answers the first error that was met; bytes that are left are one, too.
+func (r *Reader) End() api.Errno {
+	if r.Left() > 0 {
+		r.Fail(api.ErrForm)
+	}
+	return r.e
+}
+
+// Left tells how many bytes are still to be read.
+func (r *Reader) Left() int {
+	return len(r.rest)
+}
+
+// Byte reads a byte.
+func (r *Reader) Byte() byte {
+	if r.Left() == 0 {
+		r.Fail(api.ErrShort)
+		return 0
+	}
+	b := r.rest[0]
+	r.rest = r.rest[1:]
+	return b
+}
+
+// Bytes reads n bytes, into new memory.
+func (r *Reader) Bytes(n int) []byte {
+	if n < 0 || n > r.Left() {
+		r.Fail(api.ErrShort)
+		return nil
+	}
+	b := bytes.Clone(r.rest[:n])
+	r.rest = r.rest[n:]
+	return b
+}
+
+// U32 reads a number of leb.U32.
+func (r *Reader) U32() uint32 {
+	return number(r, leb.U32)
+}
+
+// U64 reads a number of leb.U64.
+func (r *Reader) U64() uint64 {
+	return number(r, leb.U64)
+}
+
+// Count reads how many follow, and fails with ErrLong ahead of them if they are more than most.
+func (r *Reader) Count(most uint32) int {
+	n := r.U32()
+	if n > most {
+		r.Fail(api.ErrLong)
+		return 0
+	}
+	return int(n)
+}
+
+func number[N any](r *Reader, take func(b []byte) (N, int, api.Errno)) N {
+	v, n, e := take(r.rest)
+	if e != api.OK {
+		r.Fail(e)
+		return v
+	}
+	r.rest = r.rest[n:]
+	return v
+}

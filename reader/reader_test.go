@@ -1,0 +1,99 @@
+package reader_test
+
+import (
+	"bytes"
+	"testing"
+
+	"cloakroom/api"
+	"cloakroom/reader"
+)
+
+func TestReadsOneBehindTheOther(t *testing.T) {
+	r := reader.New([]byte("\x07ab\xe5\x8e\x26\xff\xff\xff\xff\xff\xff\xff\xff\xff\x01\x03\x80\x00"))
+	if left := r.Left(); left != 19 {
+		t.Errorf("%d bytes left", left)
+	}
+	if v := r.Byte(); v != 7 {
+		t.Errorf("Byte: %d", v)
+	}
+	if v := r.Bytes(2); string(v) != "ab" {
+		t.Errorf("Bytes: %q", v)
+	}
+	if v := r.U32(); v != 624485 {
+		t.Errorf("U32: %d", v)
+	}
+	if v := r.U64(); v != 1<<64-1 {
+		t.Errorf("U64: %d", v)
+	}
+	if v := r.Count(3); v != 3 {
+		t.Errorf("Count: %d", v)
+	}
+	if left := r.Left(); left != 2 {
+		t.Errorf("%d bytes left", left)
+	}
+	if v := r.Count(0); v != 0 {
+		t.Errorf("Count: %d", v)
+	}
+	if v := r.Bytes(0); len(v) != 0 {
+		t.Errorf("Bytes: %q", v)
+	}
+	if e := r.End(); e != api.OK {
+		t.Errorf("End: error %d", e)
+	}
+}
+
+// noughts asks what stands behind an error: this, however one goes on.
+func noughts(t *testing.T, name string, r reader.Reader, want api.Errno) {
+	t.Helper()
+	for range 2 {
+		if r.Left() != 0 || r.Byte() != 0 || len(r.Bytes(1)) != 0 || len(r.Bytes(0)) != 0 || r.U32() != 0 || r.U64() != 0 || r.Count(9) != 0 {
+			t.Errorf("%s: something is read behind an error", name)
+		}
+		r.Fail(api.ErrStuck)
+		if e := r.End(); e != want {
+			t.Errorf("%s: error %d, want %d", name, e, want)
+		}
+	}
+}
+
+func TestTheFirstErrorStays(t *testing.T) {
+	for _, c := range []struct {
+		name string
+		in   string
+		read func(r *reader.Reader)
+		want api.Errno
+	}{
+		{"a byte of none", "", func(r *reader.Reader) { r.Byte() }, api.ErrShort},
+		{"too many bytes", "abc", func(r *reader.Reader) { r.Bytes(4) }, api.ErrShort},
+		{"fewer bytes than none", "abc", func(r *reader.Reader) { r.Bytes(-1) }, api.ErrShort},
+		{"a number of 32 bits that is cut", "\x80\x80", func(r *reader.Reader) { r.U32() }, api.ErrShort},
+		{"a number of 64 bits that is cut", "\x80\x80", func(r *reader.Reader) { r.U64() }, api.ErrShort},
+		{"a number of more than 32 bits", "\xff\xff\xff\xff\x1f\x01\x02", func(r *reader.Reader) { r.U32() }, api.ErrForm},
+		{"a number of more than 64 bits", "\xff\xff\xff\xff\xff\xff\xff\xff\xff\x02\x01", func(r *reader.Reader) { r.U64() }, api.ErrForm},
+		{"too many", "\x04\x01\x02\x03\x04", func(r *reader.Reader) { r.Count(3) }, api.ErrLong},
+		{"far too many", "\xff\xff\xff\xff\x0f\x01", func(r *reader.Reader) { r.Count(8) }, api.ErrLong},
+		{"a count that is cut", "\x84", func(r *reader.Reader) { r.Count(3) }, api.ErrShort},
+		{"a count of more than 32 bits", "\x80\x80\x80\x80\x80\x00", func(r *reader.Reader) { r.Count(3) }, api.ErrForm},
+		{"bytes left", "\x00", func(r *reader.Reader) {}, api.ErrForm},
+		{"what who reads finds", "abc", func(r *reader.Reader) { r.Fail(api.ErrProfile) }, api.ErrProfile},
+		{"the first of two", "abc", func(r *reader.Reader) { r.Fail(api.ErrLong); r.Fail(api.ErrForm) }, api.ErrLong},
+	} {
+		r := reader.New([]byte(c.in))
+		c.read(&r)
+		if e := r.End(); e != c.want {
+			t.Errorf("%s: error %d, want %d", c.name, e, c.want)
+		}
+		noughts(t, c.name, r, c.want)
+	}
+}
+
+func TestBytesAreNewMemory(t *testing.T) {
+	in := []byte("abcdef")
+	r := reader.New(in)
+	first, second := r.Bytes(2), r.Bytes(2)
+	_ = append(first, 'X', 'X')
+	first[0] = 'X'
+	if string(in) != "abcdef" || string(second) != "cd" || !bytes.Equal(r.Bytes(2), []byte("ef")) {
+		t.Errorf("memory is shared: %q, %q", in, second)
+	}
+}
