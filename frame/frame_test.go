@@ -8,6 +8,7 @@ import (
 
 	"cloakroom/api"
 	"cloakroom/frame"
+	"cloakroom/probe"
 )
 
 // fill answers n bytes that differ from their neighbours.
@@ -30,21 +31,6 @@ func stream(contents ...[]byte) []byte {
 }
 
 func same(a, b [][]byte) bool { return slices.EqualFunc(a, b, bytes.Equal) }
-
-// handed lays b into memory with spare room, and tells how to see that neither was changed.
-func handed(b []byte) (handed []byte, unchanged func() bool) {
-	whole := append(bytes.Clone(b), bytes.Repeat([]byte{0xa5}, 16)...)
-	before := bytes.Clone(whole)
-	return whole[:len(b)], func() bool { return bytes.Equal(whole, before) }
-}
-
-// scribble changes all memory that b reaches, its spare room too.
-func scribble(b []byte) {
-	whole := b[:cap(b)]
-	for i := range whole {
-		whole[i] ^= 0xff
-	}
-}
 
 // expect works out by the chapter's words what is told of all of b, one byte at a time, and what is left then.
 func expect(b []byte) (frames [][]byte, rest int, bad bool) {
@@ -95,13 +81,13 @@ func TestPutOfTooManyIsNothing(t *testing.T) {
 
 func TestPutLeavesWhatIsHandedIn(t *testing.T) {
 	for _, size := range []int{0, 1, 2, 300, api.MaxFrame, api.MaxFrame + 1} {
-		in, unchanged := handed(fill(size))
+		in, unchanged := probe.Handed(fill(size))
 		first, second := frame.Put(in), frame.Put(in)
 		if !unchanged() {
 			t.Fatalf("Put of %d bytes changed what it was handed, or its spare room", size)
 		}
 		before := bytes.Clone(second)
-		scribble(first)
+		probe.Scribble(first)
 		if !unchanged() {
 			t.Errorf("Put of %d bytes answers memory that it was handed", size)
 		}
@@ -247,7 +233,7 @@ func TestTooLongBehindBytesThatWait(t *testing.T) {
 func TestAddLeavesAndKeepsNothingOfWhatIsHandedIn(t *testing.T) {
 	for n := range 12 {
 		b := stream([]byte("abc"), []byte("defgh"))
-		in, unchanged := handed(b[:n])
+		in, unchanged := probe.Handed(b[:n])
 		p := frame.New()
 		frames, _ := p.Add(in...)
 		if !unchanged() {
@@ -257,7 +243,7 @@ func TestAddLeavesAndKeepsNothingOfWhatIsHandedIn(t *testing.T) {
 		for i, f := range told {
 			told[i] = bytes.Clone(f)
 		}
-		scribble(in)
+		probe.Scribble(in)
 		if !same(frames, told) {
 			t.Errorf("Add of %d bytes answers memory that it was handed", n)
 		}
@@ -277,7 +263,7 @@ func TestAddAnswersNewMemory(t *testing.T) {
 	}
 	for i, f := range frames {
 		others := slices.Concat(slices.Concat(frames[:i]...), slices.Concat(frames[i+1:]...))
-		scribble(f)
+		probe.Scribble(f)
 		_ = append(f, 0x5a)
 		if now := slices.Concat(slices.Concat(frames[:i]...), slices.Concat(frames[i+1:]...)); !bytes.Equal(now, others) {
 			t.Errorf("frame %d shares memory with another one", i)

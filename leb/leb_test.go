@@ -9,6 +9,7 @@ import (
 
 	"cloakroom/api"
 	"cloakroom/leb"
+	"cloakroom/probe"
 )
 
 // reader is one of the five, its number made wide enough for all of them.
@@ -134,15 +135,8 @@ func behinds() [][]byte {
 	return [][]byte{nil, {0x00}, {0x7f}, {0x80}, {0xff}, {0x80, 0x80, 0x80}, bytes.Repeat([]byte{0xff}, 20)}
 }
 
-// handed lays b into memory with spare room, and tells how to see that neither was changed.
-func handed(b []byte) (handed []byte, same func() bool) {
-	whole := append(bytes.Clone(b), bytes.Repeat([]byte{0xa5}, 16)...)
-	before := bytes.Clone(whole)
-	return whole[:len(b)], func() bool { return bytes.Equal(whole, before) }
-}
-
 func holds(r reader, b []byte) error {
-	in, same := handed(b)
+	in, same := probe.Handed(b)
 	v, n, e := r.read(in)
 	wantV, wantN, wantE := r.expect(b)
 	if v.Cmp(wantV) != 0 || n != wantN || e != wantE {
@@ -254,7 +248,7 @@ func TestPutsStandBehindWhatIsThere(t *testing.T) {
 func TestPutsLeaveWhatIsHandedIn(t *testing.T) {
 	for name, put := range puts() {
 		for _, front := range [][]byte{{}, {7}, {7, 8, 9}} {
-			in, same := handed(front)
+			in, same := probe.Handed(front)
 			got := put(in)
 			if !same() {
 				t.Fatalf("%s changed what it was handed, or its spare room", name)
@@ -272,7 +266,7 @@ func TestPutsLeaveWhatIsHandedIn(t *testing.T) {
 
 func TestPutsAnswerNewMemoryEachTime(t *testing.T) {
 	for name, put := range puts() {
-		in, _ := handed([]byte{7, 8})
+		in, _ := probe.Handed([]byte{7, 8})
 		first, second := put(in), put(in)
 		before := bytes.Clone(second)
 		for i := range first {

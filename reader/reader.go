@@ -8,9 +8,10 @@ import (
 	"cloakroom/leb"
 )
 
-// Reader is embedded in what a layer takes apart. The first error that it meets stays, and nothing is left to read then: who reads may go on without asking, gets noughts, and asks at the End.
+// Reader is embedded in what a layer takes apart. The first error that it meets stays, and nothing is left to read then: who reads may go on without asking, gets noughts, and asks at the End, or where it stops.
 type Reader struct {
 	rest []byte
+	read int
 	e    api.Errno
 }
 
@@ -34,6 +35,11 @@ func (r *Reader) End() api.Errno {
 	return r.e
 }
 
+// Stop answers, where bytes may be left, how many were read, and the first error that was met: beside one none were.
+func (r *Reader) Stop() (n int, e api.Errno) {
+	return r.read, r.e
+}
+
 // Left tells how many bytes are still to be read.
 func (r *Reader) Left() int {
 	return len(r.rest)
@@ -46,7 +52,7 @@ func (r *Reader) Byte() byte {
 		return 0
 	}
 	b := r.rest[0]
-	r.rest = r.rest[1:]
+	r.skip(1)
 	return b
 }
 
@@ -57,7 +63,7 @@ func (r *Reader) Bytes(n int) []byte {
 		return nil
 	}
 	b := bytes.Clone(r.rest[:n])
-	r.rest = r.rest[n:]
+	r.skip(n)
 	return b
 }
 
@@ -87,6 +93,11 @@ func number[N any](r *Reader, take func(b []byte) (N, int, api.Errno)) N {
 		r.Fail(e)
 		return v
 	}
-	r.rest = r.rest[n:]
+	r.skip(n)
 	return v
+}
+
+func (r *Reader) skip(n int) {
+	r.rest = r.rest[n:]
+	r.read += n
 }

@@ -50,6 +50,9 @@ func noughts(t *testing.T, name string, r reader.Reader, want api.Errno) {
 			t.Errorf("%s: something is read behind an error", name)
 		}
 		r.Fail(api.ErrStuck)
+		if n, e := r.Stop(); n != 0 || e != want {
+			t.Errorf("%s: stops behind %d bytes, error %d, want %d", name, n, e, want)
+		}
 		if e := r.End(); e != want {
 			t.Errorf("%s: error %d, want %d", name, e, want)
 		}
@@ -95,5 +98,33 @@ func TestBytesAreNewMemory(t *testing.T) {
 	first[0] = 'X'
 	if string(in) != "abcdef" || string(second) != "cd" || !bytes.Equal(r.Bytes(2), []byte("ef")) {
 		t.Errorf("memory is shared: %q, %q", in, second)
+	}
+}
+
+func TestStopTellsHowManyBytesWereRead(t *testing.T) {
+	r := reader.New([]byte("\x07ab\x80\x80\x00\xff\x01\x83\x00zz"))
+	for i, c := range []struct {
+		read func()
+		want int
+	}{
+		{func() {}, 0},
+		{func() { r.Byte() }, 1},
+		{func() { r.Bytes(2) }, 3},
+		{func() { r.Bytes(0) }, 3},
+		{func() { r.U32() }, 6},
+		{func() { r.U64() }, 8},
+		{func() { r.Count(3) }, 10},
+	} {
+		c.read()
+		if n, e := r.Stop(); n != c.want || e != api.OK {
+			t.Errorf("behind read %d: %d bytes, error %d, want %d", i, n, e, c.want)
+		}
+	}
+	if left := r.Left(); left != 2 {
+		t.Errorf("%d bytes left", left)
+	}
+	r.Bytes(3)
+	if n, e := r.Stop(); n != 0 || e != api.ErrShort {
+		t.Errorf("behind an error: %d bytes, error %d", n, e)
 	}
 }

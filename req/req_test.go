@@ -10,6 +10,7 @@ import (
 
 	"cloakroom/api"
 	"cloakroom/leb"
+	"cloakroom/probe"
 	"cloakroom/req"
 )
 
@@ -322,25 +323,10 @@ func expectList(b []byte) (list []uint64, n int, e api.Errno) {
 	return list, n, e
 }
 
-// tails hands all rows of at most so many of these bytes to use.
-func tails(letters string, longest int, use func(tail []byte)) {
-	var grow func(tail []byte)
-	grow = func(tail []byte) {
-		use(tail)
-		if len(tail) == longest {
-			return
-		}
-		for i := range len(letters) {
-			grow(append(tail[:len(tail):len(tail)], letters[i]))
-		}
-	}
-	grow(nil)
-}
-
 // TestTakeOfAllShortTails: whatever stands behind a token.
 func TestTakeOfAllShortTails(t *testing.T) {
 	for kind := byte(1); kind <= 6; kind++ {
-		tails("\x00\x01\x02\x08\x09\x20\x21\x80\xff", 5, func(tail []byte) {
+		probe.Rows("\x00\x01\x02\x08\x09\x20\x21\x80\xff", 5, func(tail []byte) {
 			b := append(append([]byte{kind}, token...), tail...)
 			got, e := req.Take(b)
 			want, wantE := expect(b)
@@ -375,29 +361,14 @@ func TestTakeOfOneOtherByte(t *testing.T) {
 	}
 }
 
-// handed lays l into memory with spare room, and tells how to see that neither was changed.
-func handed[T comparable](l []T, other T) (handed []T, unchanged func() bool) {
-	whole := append(slices.Clone(l), slices.Repeat([]T{other}, 16)...)
-	before := slices.Clone(whole)
-	return whole[:len(l):len(whole)], func() bool { return slices.Equal(whole, before) }
-}
-
-// scribble changes all memory that l reaches, its spare room too.
-func scribble[T byte | uint64](l []T) {
-	whole := l[:cap(l)]
-	for i := range whole {
-		whole[i] ^= 0xff
-	}
-}
-
 func TestPutLeavesWhatIsHandedIn(t *testing.T) {
 	for _, c := range requests() {
-		body, bodyUnchanged := handed(c.r.Body, 0xa5)
-		args, argsUnchanged := handed(c.r.Args, 0xa5)
+		body, bodyUnchanged := probe.Handed(c.r.Body)
+		args, argsUnchanged := probe.Handed(c.r.Args)
 		r := c.r
 		r.Body, r.Args = body, args
 		first, second := req.Put(r), req.Put(r)
-		scribble(first)
+		probe.Scribble(first)
 		if !bodyUnchanged() || !argsUnchanged() {
 			t.Errorf("%q: what was handed in is changed, or told", c.bytes)
 		}
@@ -409,15 +380,15 @@ func TestPutLeavesWhatIsHandedIn(t *testing.T) {
 
 func TestTakeLeavesAndKeepsNothingOfWhatIsHandedIn(t *testing.T) {
 	for _, c := range requests() {
-		in, unchanged := handed([]byte(c.bytes), 0xa5)
+		in, unchanged := probe.Handed([]byte(c.bytes))
 		first, _ := req.Take(in)
 		second, _ := req.Take(in)
-		scribble(first.Body)
-		scribble(first.Args)
+		probe.Scribble(first.Body)
+		probe.Scribble(first.Args)
 		if !unchanged() {
 			t.Errorf("%q: what was handed in is changed, or told", c.bytes)
 		}
-		scribble(in)
+		probe.Scribble(in)
 		if !alike(second, c.r) {
 			t.Errorf("%q: what is told shares memory: %v", c.bytes, second)
 		}
@@ -565,7 +536,7 @@ func expectReply(b []byte) (r api.Reply, e api.Errno) {
 }
 
 func TestTakeReplyOfAllShortTails(t *testing.T) {
-	tails("\x00\x01\x02\x08\x09\x11\x12\x80\xff", 6, func(tail []byte) {
+	probe.Rows("\x00\x01\x02\x08\x09\x11\x12\x80\xff", 6, func(tail []byte) {
 		b := append([]byte(token), tail...)
 		got, e := req.TakeReply(b)
 		if want, wantE := expectReply(tail); e != wantE || !alike(got, want) {
@@ -576,22 +547,22 @@ func TestTakeReplyOfAllShortTails(t *testing.T) {
 
 func TestRepliesShareNoMemory(t *testing.T) {
 	for _, c := range replies() {
-		values, valuesUnchanged := handed(c.r.Values, 0xa5)
+		values, valuesUnchanged := probe.Handed(c.r.Values)
 		r := c.r
 		r.Values = values
 		first, second := req.PutReply(r), req.PutReply(r)
-		scribble(first)
+		probe.Scribble(first)
 		if !valuesUnchanged() || string(second) != c.bytes {
 			t.Errorf("PutReply(%v): memory is shared, or changed", c.r)
 		}
-		in, unchanged := handed([]byte(c.bytes), 0xa5)
+		in, unchanged := probe.Handed([]byte(c.bytes))
 		one, _ := req.TakeReply(in)
 		other, _ := req.TakeReply(in)
-		scribble(one.Values)
+		probe.Scribble(one.Values)
 		if !unchanged() {
 			t.Errorf("TakeReply(%q): what was handed in is changed, or told", c.bytes)
 		}
-		scribble(in)
+		probe.Scribble(in)
 		if !alike(other, c.r) {
 			t.Errorf("TakeReply(%q): what is told shares memory: %v", c.bytes, other)
 		}
