@@ -40,6 +40,11 @@ func (r *Reader) Stop() (n int, e api.Errno) {
 	return r.read, r.e
 }
 
+// Failed tells whether an error was met, for who reads until something comes that may never come.
+func (r *Reader) Failed() bool {
+	return r.e != api.OK
+}
+
 // Left tells how many bytes are still to be read.
 func (r *Reader) Left() int {
 	return len(r.rest)
@@ -75,6 +80,21 @@ func (r *Reader) U32() uint32 {
 // U64 reads a number of leb.U64.
 func (r *Reader) U64() uint64 {
 	return number(r, leb.U64)
+}
+
+// S32 reads a number of leb.S32.
+func (r *Reader) S32() int32 {
+	return number(r, leb.S32)
+}
+
+// S33 reads a number of leb.S33.
+func (r *Reader) S33() int64 {
+	return number(r, leb.S33)
+}
+
+// S64 reads a number of leb.S64.
+func (r *Reader) S64() int64 {
+	return number(r, leb.S64)
 }
 
 // Count reads how many follow, and fails with ErrLong ahead of them if they are more than most.

@@ -9,8 +9,9 @@ import (
 )
 
 func TestReadsOneBehindTheOther(t *testing.T) {
-	r := reader.New([]byte("\x07ab\xe5\x8e\x26\xff\xff\xff\xff\xff\xff\xff\xff\xff\x01\x03\x80\x00"))
-	if left := r.Left(); left != 19 {
+	r := reader.New([]byte("\x07ab\xe5\x8e\x26\xff\xff\xff\xff\xff\xff\xff\xff\xff\x01" +
+		"\x80\x80\x80\x80\x78\xff\xff\xff\xff\x0f\x80\x80\x80\x80\x80\x80\x80\x80\x80\x7f\x03\x80\x00"))
+	if left := r.Left(); left != 39 {
 		t.Errorf("%d bytes left", left)
 	}
 	if v := r.Byte(); v != 7 {
@@ -25,8 +26,20 @@ func TestReadsOneBehindTheOther(t *testing.T) {
 	if v := r.U64(); v != 1<<64-1 {
 		t.Errorf("U64: %d", v)
 	}
+	if v := r.S32(); v != -1<<31 {
+		t.Errorf("S32: %d", v)
+	}
+	if v := r.S33(); v != 1<<32-1 {
+		t.Errorf("S33: %d", v)
+	}
+	if v := r.S64(); v != -1<<63 {
+		t.Errorf("S64: %d", v)
+	}
 	if v := r.Count(3); v != 3 {
 		t.Errorf("Count: %d", v)
+	}
+	if r.Failed() {
+		t.Error("Failed, and nothing was met")
 	}
 	if left := r.Left(); left != 2 {
 		t.Errorf("%d bytes left", left)
@@ -46,8 +59,11 @@ func TestReadsOneBehindTheOther(t *testing.T) {
 func noughts(t *testing.T, name string, r reader.Reader, want api.Errno) {
 	t.Helper()
 	for range 2 {
-		if r.Left() != 0 || r.Byte() != 0 || len(r.Bytes(1)) != 0 || len(r.Bytes(0)) != 0 || r.U32() != 0 || r.U64() != 0 || r.Count(9) != 0 {
+		if r.Left() != 0 || r.Byte() != 0 || len(r.Bytes(1)) != 0 || len(r.Bytes(0)) != 0 || r.U32() != 0 || r.U64() != 0 || r.S32() != 0 || r.S33() != 0 || r.S64() != 0 || r.Count(9) != 0 {
 			t.Errorf("%s: something is read behind an error", name)
+		}
+		if !r.Failed() {
+			t.Errorf("%s: an error was met, and is not told", name)
 		}
 		r.Fail(api.ErrStuck)
 		if n, e := r.Stop(); n != 0 || e != want {
@@ -73,6 +89,12 @@ func TestTheFirstErrorStays(t *testing.T) {
 		{"a number of 64 bits that is cut", "\x80\x80", func(r *reader.Reader) { r.U64() }, api.ErrShort},
 		{"a number of more than 32 bits", "\xff\xff\xff\xff\x1f\x01\x02", func(r *reader.Reader) { r.U32() }, api.ErrForm},
 		{"a number of more than 64 bits", "\xff\xff\xff\xff\xff\xff\xff\xff\xff\x02\x01", func(r *reader.Reader) { r.U64() }, api.ErrForm},
+		{"a signed number of 32 bits that is cut", "\xff\xff", func(r *reader.Reader) { r.S32() }, api.ErrShort},
+		{"a signed number of 33 bits that is cut", "\xff\xff", func(r *reader.Reader) { r.S33() }, api.ErrShort},
+		{"a signed number of 64 bits that is cut", "\xff\xff", func(r *reader.Reader) { r.S64() }, api.ErrShort},
+		{"a signed number of more than 32 bits", "\xff\xff\xff\xff\x0f\x01", func(r *reader.Reader) { r.S32() }, api.ErrForm},
+		{"a signed number of more than 33 bits", "\xff\xff\xff\xff\x1f\x01", func(r *reader.Reader) { r.S33() }, api.ErrForm},
+		{"a signed number of more than 64 bits", "\xff\xff\xff\xff\xff\xff\xff\xff\xff\x01\x01", func(r *reader.Reader) { r.S64() }, api.ErrForm},
 		{"too many", "\x04\x01\x02\x03\x04", func(r *reader.Reader) { r.Count(3) }, api.ErrLong},
 		{"far too many", "\xff\xff\xff\xff\x0f\x01", func(r *reader.Reader) { r.Count(8) }, api.ErrLong},
 		{"a count that is cut", "\x84", func(r *reader.Reader) { r.Count(3) }, api.ErrShort},
@@ -102,7 +124,7 @@ func TestBytesAreNewMemory(t *testing.T) {
 }
 
 func TestStopTellsHowManyBytesWereRead(t *testing.T) {
-	r := reader.New([]byte("\x07ab\x80\x80\x00\xff\x01\x83\x00zz"))
+	r := reader.New([]byte("\x07ab\x80\x80\x00\xff\x01\x83\x00\x7f\xff\x7f\xff\xff\x7fzz"))
 	for i, c := range []struct {
 		read func()
 		want int
@@ -114,6 +136,9 @@ func TestStopTellsHowManyBytesWereRead(t *testing.T) {
 		{func() { r.U32() }, 6},
 		{func() { r.U64() }, 8},
 		{func() { r.Count(3) }, 10},
+		{func() { r.S32() }, 11},
+		{func() { r.S33() }, 13},
+		{func() { r.S64() }, 16},
 	} {
 		c.read()
 		if n, e := r.Stop(); n != c.want || e != api.OK {
