@@ -72,6 +72,11 @@ func (r *Reader) Bytes(n int) []byte {
 	return b
 }
 
+// Sized reads a length of leb.U32, and as many bytes, into new memory.
+func (r *Reader) Sized() []byte {
+	return r.Bytes(int(r.U32()))
+}
+
 // U32 reads a number of leb.U32.
 func (r *Reader) U32() uint32 {
 	return number(r, leb.U32)

@@ -10,8 +10,8 @@ import (
 
 func TestReadsOneBehindTheOther(t *testing.T) {
 	r := reader.New([]byte("\x07ab\xe5\x8e\x26\xff\xff\xff\xff\xff\xff\xff\xff\xff\x01" +
-		"\x80\x80\x80\x80\x78\xff\xff\xff\xff\x0f\x80\x80\x80\x80\x80\x80\x80\x80\x80\x7f\x03\x80\x00"))
-	if left := r.Left(); left != 39 {
+		"\x80\x80\x80\x80\x78\xff\xff\xff\xff\x0f\x80\x80\x80\x80\x80\x80\x80\x80\x80\x7f\x03\x82\x00cd\x80\x00"))
+	if left := r.Left(); left != 43 {
 		t.Errorf("%d bytes left", left)
 	}
 	if v := r.Byte(); v != 7 {
@@ -38,6 +38,9 @@ func TestReadsOneBehindTheOther(t *testing.T) {
 	if v := r.Count(3); v != 3 {
 		t.Errorf("Count: %d", v)
 	}
+	if v := r.Sized(); string(v) != "cd" {
+		t.Errorf("Sized: %q", v)
+	}
 	if r.Failed() {
 		t.Error("Failed, and nothing was met")
 	}
@@ -59,7 +62,7 @@ func TestReadsOneBehindTheOther(t *testing.T) {
 func noughts(t *testing.T, name string, r reader.Reader, want api.Errno) {
 	t.Helper()
 	for range 2 {
-		if r.Left() != 0 || r.Byte() != 0 || len(r.Bytes(1)) != 0 || len(r.Bytes(0)) != 0 || r.U32() != 0 || r.U64() != 0 || r.S32() != 0 || r.S33() != 0 || r.S64() != 0 || r.Count(9) != 0 {
+		if r.Left() != 0 || r.Byte() != 0 || len(r.Bytes(1)) != 0 || len(r.Bytes(0)) != 0 || len(r.Sized()) != 0 || r.U32() != 0 || r.U64() != 0 || r.S32() != 0 || r.S33() != 0 || r.S64() != 0 || r.Count(9) != 0 {
 			t.Errorf("%s: something is read behind an error", name)
 		}
 		if !r.Failed() {
@@ -85,6 +88,10 @@ func TestTheFirstErrorStays(t *testing.T) {
 		{"a byte of none", "", func(r *reader.Reader) { r.Byte() }, api.ErrShort},
 		{"too many bytes", "abc", func(r *reader.Reader) { r.Bytes(4) }, api.ErrShort},
 		{"fewer bytes than none", "abc", func(r *reader.Reader) { r.Bytes(-1) }, api.ErrShort},
+		{"a length of more bytes than there are", "\x04abc", func(r *reader.Reader) { r.Sized() }, api.ErrShort},
+		{"the greatest length", "\xff\xff\xff\xff\x0fabc", func(r *reader.Reader) { r.Sized() }, api.ErrShort},
+		{"a length that is cut", "\x84", func(r *reader.Reader) { r.Sized() }, api.ErrShort},
+		{"a length of more than 32 bits", "\xff\xff\xff\xff\x1f", func(r *reader.Reader) { r.Sized() }, api.ErrForm},
 		{"a number of 32 bits that is cut", "\x80\x80", func(r *reader.Reader) { r.U32() }, api.ErrShort},
 		{"a number of 64 bits that is cut", "\x80\x80", func(r *reader.Reader) { r.U64() }, api.ErrShort},
 		{"a number of more than 32 bits", "\xff\xff\xff\xff\x1f\x01\x02", func(r *reader.Reader) { r.U32() }, api.ErrForm},
@@ -113,18 +120,21 @@ func TestTheFirstErrorStays(t *testing.T) {
 }
 
 func TestBytesAreNewMemory(t *testing.T) {
-	in := []byte("abcdef")
+	in := []byte("abcdef\x02gh")
 	r := reader.New(in)
 	first, second := r.Bytes(2), r.Bytes(2)
 	_ = append(first, 'X', 'X')
 	first[0] = 'X'
-	if string(in) != "abcdef" || string(second) != "cd" || !bytes.Equal(r.Bytes(2), []byte("ef")) {
+	if string(in) != "abcdef\x02gh" || string(second) != "cd" || !bytes.Equal(r.Bytes(2), []byte("ef")) {
 		t.Errorf("memory is shared: %q, %q", in, second)
+	}
+	if r.Sized()[0] = 'X'; string(in) != "abcdef\x02gh" {
+		t.Errorf("memory is shared: %q", in)
 	}
 }
 
 func TestStopTellsHowManyBytesWereRead(t *testing.T) {
-	r := reader.New([]byte("\x07ab\x80\x80\x00\xff\x01\x83\x00\x7f\xff\x7f\xff\xff\x7fzz"))
+	r := reader.New([]byte("\x07ab\x80\x80\x00\xff\x01\x83\x00\x7f\xff\x7f\xff\xff\x7f\x81\x00czz"))
 	for i, c := range []struct {
 		read func()
 		want int
@@ -139,6 +149,7 @@ func TestStopTellsHowManyBytesWereRead(t *testing.T) {
 		{func() { r.S32() }, 11},
 		{func() { r.S33() }, 13},
 		{func() { r.S64() }, 16},
+		{func() { r.Sized() }, 19},
 	} {
 		c.read()
 		if n, e := r.Stop(); n != c.want || e != api.OK {
