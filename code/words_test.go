@@ -6,44 +6,35 @@ import (
 
 	"cloakroom/api"
 	"cloakroom/leb"
+	"cloakroom/probe"
 )
 
-// cursor goes through bytes by the chapter's words: plainly, one call for each block, and a panic for each error.
+// cursor goes through bytes by the chapter's words: plainly, one call for each block.
 type cursor struct {
-	b  []byte
-	at int
-	l  []api.Instr
+	probe.Cursor
+	l []api.Instr
 }
 
 // expect works out by the chapter's words what Take answers.
 func expect(b []byte) (l []api.Instr, n int, e api.Errno) {
-	defer func() {
-		if met := recover(); met != nil {
-			l, n, e = nil, 0, met.(api.Errno)
-		}
-	}()
-	c := cursor{b: b}
-	c.upToEnd(false, 0)
-	return c.l, c.at, api.OK
-}
-
-func ask(holds bool, e api.Errno) {
-	if !holds {
-		panic(e)
+	c := cursor{Cursor: probe.Cursor{Bytes: b}}
+	if e := probe.Met(func() { c.upToEnd(false, 0) }); e != api.OK {
+		return nil, 0, e
 	}
+	return c.l, c.At, api.OK
 }
 
 // upToEnd reads instructions with the end that closes this depth.
 func (c *cursor) upToEnd(mayElse bool, depth int) {
 	for {
-		ask(len(c.l) < 600, api.ErrLong)
+		probe.Ask(len(c.l) < 600, api.ErrLong)
 		x := c.instr(depth)
 		c.l = append(c.l, x)
 		switch x.Op {
 		case 0x02, 0x03, 0x04:
 			c.upToEnd(x.Op == 0x04, depth+1)
 		case 0x05:
-			ask(mayElse, api.ErrForm)
+			probe.Ask(mayElse, api.ErrForm)
 			mayElse = false
 		case 0x0b:
 			return
@@ -51,56 +42,43 @@ func (c *cursor) upToEnd(mayElse bool, depth int) {
 	}
 }
 
-func (c *cursor) octet() byte {
-	ask(c.at < len(c.b), api.ErrShort)
-	c.at++
-	return c.b[c.at-1]
-}
-
-func read[N any](c *cursor, take func([]byte) (N, int, api.Errno)) N {
-	v, n, e := take(c.b[c.at:])
-	ask(e == api.OK, e)
-	c.at += n
-	return v
-}
-
-func (c *cursor) number() uint32 { return read(c, leb.U32) }
+func (c *cursor) number() uint32 { return probe.Read(&c.Cursor, leb.U32) }
 
 func (c *cursor) nought() uint32 {
-	ask(c.octet() == 0, api.ErrForm)
+	probe.Ask(c.Octet() == 0, api.ErrForm)
 	return 0
 }
 
 func (c *cursor) valueType() byte {
-	t := c.octet()
-	ask(strings.IndexByte("\x7d\x7c\x7b", t) < 0, api.ErrProfile)
-	ask(strings.IndexByte("\x7f\x7e\x70\x6f", t) >= 0, api.ErrForm)
+	t := c.Octet()
+	probe.Ask(strings.IndexByte("\x7d\x7c\x7b", t) < 0, api.ErrProfile)
+	probe.Ask(strings.IndexByte("\x7f\x7e\x70\x6f", t) >= 0, api.ErrForm)
 	return t
 }
 
 func (c *cursor) blockType() int {
 	known := map[byte]int{0x40: -64, 0x7f: -1, 0x7e: -2, 0x70: -16, 0x6f: -17}
-	ask(c.at < len(c.b), api.ErrShort)
-	first := c.b[c.at]
+	probe.Ask(c.At < len(c.Bytes), api.ErrShort)
+	first := c.Bytes[c.At]
 	if t, ok := known[first]; ok {
-		c.at++
+		c.At++
 		return t
 	}
 	if strings.IndexByte("\x7d\x7c\x7b", first) >= 0 {
 		panic(api.ErrProfile)
 	}
-	t := read(c, leb.S33)
-	ask(t >= 0, api.ErrForm)
+	t := probe.Read(&c.Cursor, leb.S33)
+	probe.Ask(t >= 0, api.ErrForm)
 	return int(t)
 }
 
 func (c *cursor) whichOp() int {
-	first := int(c.octet())
+	first := int(c.Octet())
 	if first != 0xfc {
 		return first
 	}
 	number := c.number()
-	ask(number <= 255, api.ErrForm)
+	probe.Ask(number <= 255, api.ErrForm)
 	return 0xfc00 + int(number)
 }
 
@@ -122,31 +100,31 @@ func (c *cursor) instr(depth int) api.Instr {
 	case x.Op == 0x3f, x.Op == 0x40, x.Op == 0xfc0b:
 		x.A = c.nought()
 	case x.Op == 0x41:
-		x.N = uint64(read(c, leb.S32)) & (1<<32 - 1)
+		x.N = uint64(probe.Read(&c.Cursor, leb.S32)) & (1<<32 - 1)
 	case x.Op == 0x42:
-		x.N = uint64(read(c, leb.S64))
+		x.N = uint64(probe.Read(&c.Cursor, leb.S64))
 	case in(x.Op, loadsAndStores):
 		x.A = c.number()
-		ask(x.A <= 31, api.ErrForm)
+		probe.Ask(x.A <= 31, api.ErrForm)
 		x.B = c.number()
 	case x.Op >= 0x02 && x.Op <= 0x04:
 		x.T = c.blockType()
-		ask(depth < 32, api.ErrLong)
+		probe.Ask(depth < 32, api.ErrLong)
 	case x.Op == 0x0e:
 		size := c.number()
-		ask(size <= 600, api.ErrLong)
+		probe.Ask(size <= 600, api.ErrLong)
 		for range size {
 			x.L = append(x.L, c.number())
 		}
 		x.A = c.number()
 	case x.Op == 0x1c:
-		ask(c.number() == 1, api.ErrForm)
+		probe.Ask(c.number() == 1, api.ErrForm)
 		x.A = uint32(c.valueType())
 	case x.Op == 0xd0:
 		x.A = uint32(c.valueType())
-		ask(x.A == 0x70 || x.A == 0x6f, api.ErrForm)
+		probe.Ask(x.A == 0x70 || x.A == 0x6f, api.ErrForm)
 	default:
-		ask(!in(x.Op, floatsAndVectors), api.ErrProfile)
+		probe.Ask(!in(x.Op, floatsAndVectors), api.ErrProfile)
 		panic(api.ErrForm)
 	}
 	return x

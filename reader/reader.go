@@ -79,27 +79,27 @@ func (r *Reader) Sized() []byte {
 
 // U32 reads a number of leb.U32.
 func (r *Reader) U32() uint32 {
-	return number(r, leb.U32)
+	return Take(r, leb.U32)
 }
 
 // U64 reads a number of leb.U64.
 func (r *Reader) U64() uint64 {
-	return number(r, leb.U64)
+	return Take(r, leb.U64)
 }
 
 // S32 reads a number of leb.S32.
 func (r *Reader) S32() int32 {
-	return number(r, leb.S32)
+	return Take(r, leb.S32)
 }
 
 // S33 reads a number of leb.S33.
 func (r *Reader) S33() int64 {
-	return number(r, leb.S33)
+	return Take(r, leb.S33)
 }
 
 // S64 reads a number of leb.S64.
 func (r *Reader) S64() int64 {
-	return number(r, leb.S64)
+	return Take(r, leb.S64)
 }
 
 // Count reads how many follow, and fails with ErrLong ahead of them if they are more than most.
@@ -112,7 +112,8 @@ func (r *Reader) Count(most uint32) int {
 	return int(n)
 }
 
-func number[N any](r *Reader, take func(b []byte) (N, int, api.Errno)) N {
+// Take reads what take answers of the bytes that are left, and as many of them as it tells.
+func Take[T any](r *Reader, take func(b []byte) (T, int, api.Errno)) T {
 	v, n, e := take(r.rest)
 	if e != api.OK {
 		r.Fail(e)

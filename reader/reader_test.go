@@ -58,6 +58,35 @@ func TestReadsOneBehindTheOther(t *testing.T) {
 	}
 }
 
+// pair reads two bytes that are one, as a layer's Take does.
+func pair(b []byte) (v string, n int, e api.Errno) {
+	if len(b) < 2 {
+		return "", 0, api.ErrShort
+	}
+	if b[0] != b[1] {
+		return "", 0, api.ErrProfile
+	}
+	return string(b[:2]), 2, api.OK
+}
+
+func TestTakeReadsWhatItIsHanded(t *testing.T) {
+	r := reader.New([]byte("aabbcd"))
+	if first, second := reader.Take(&r, pair), reader.Take(&r, pair); first != "aa" || second != "bb" {
+		t.Errorf("Take: %q, %q", first, second)
+	}
+	if n, e := r.Stop(); n != 4 || r.Left() != 2 || e != api.OK {
+		t.Errorf("behind both: %d bytes, %d left, error %d", n, r.Left(), e)
+	}
+	if v := reader.Take(&r, pair); v != "" {
+		t.Errorf("Take: %q", v)
+	}
+	noughts(t, "what is handed in tells an error", r, api.ErrProfile)
+	r = reader.New([]byte("aab"))
+	reader.Take(&r, pair)
+	reader.Take(&r, pair)
+	noughts(t, "what is handed in finds too few bytes", r, api.ErrShort)
+}
+
 // noughts asks what stands behind an error: this, however one goes on.
 func noughts(t *testing.T, name string, r reader.Reader, want api.Errno) {
 	t.Helper()
